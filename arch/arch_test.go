@@ -332,6 +332,14 @@ func TestP13_4Tile(t *testing.T) {
 		}
 	}
 	b, h := laid(base(1, 1), root, nil, nil, data)
+	h.Data[1] = 4
+	if d, ok, e := Tile(b, h, place(0)); len(d) > 0 || ok || e != api.ErrRange {
+		t.Error(d, ok, e)
+	}
+	h.Data[1] = 5
+	if d, ok, e := Tile(b, h, place(0)); string(d) != "plain" || !ok || e != api.OK {
+		t.Error(d, ok, e)
+	}
 	h.Data[0] = uint64(len(b)) - 2
 	if d, ok, e := Tile(b, h, place(0)); len(d) > 0 || ok || e != api.ErrRange {
 		t.Error(d, ok, e)

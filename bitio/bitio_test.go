@@ -79,9 +79,7 @@ func TestP1_2Writer(t *testing.T) {
 	if w.Align() != 1 || w.Len() != 8 || w.Align() != 0 {
 		t.Error("Align", w.Len())
 	}
-	w.Bits(0xffffffff, 0)
-	w.Turned(0xffffffff, 0)
-	if w.Len() != 8 {
+	if w.Bits(0xffffffff, 0) != api.OK || w.Turned(0xffffffff, 0) != api.OK || w.Len() != 8 {
 		t.Error("no bits")
 	}
 	w.Bits(0xfffffff5, 4)

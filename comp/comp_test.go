@@ -3,6 +3,7 @@ package comp
 import (
 	"bytes"
 	"slices"
+	"strings"
 	"testing"
 
 	"portolan/api"
@@ -286,6 +287,43 @@ func TestP31_3Statuses(t *testing.T) {
 		if status != c.status || (len(b) > 0) != (status == api.StOK) {
 			t.Error(i, len(b), status)
 		}
+	}
+}
+
+// texts returns an archive of a tile with a text of n bytes.
+func texts(n int) []byte {
+	f := point(1, 1)
+	f.Attrs = []api.Attr{sample.Text("name", strings.Repeat("a", n))}
+	return sample.Archive(true, 0, 0, sample.RoadMeta, func(api.Place) []byte {
+		return sample.Tile(api.Layer{Name: "road", Extent: 64, Features: []api.Feature{f}})
+	})
+}
+
+func TestP31_3MaxData(t *testing.T) {
+	const half = api.MaxData / 2
+	c := sample.One("x", "a")
+	c.Sources = append(c.Sources, api.Source{Archive: "b", Layers: [][2]string{{"road", "other"}}})
+	c.Limit = 2 * api.MaxData
+	files := func(n int) []api.File { return []api.File{{Name: "a", Data: texts(half)}, {Name: "b", Data: texts(n)}} }
+	b, _ := Tile(files(half-1000), c, sample.Place(0, 0, 0))
+	n := half - 1000 + api.MaxData - len(b)
+	if b, status := Tile(files(n), c, sample.Place(0, 0, 0)); len(b) != api.MaxData || status != api.StOK {
+		t.Error(len(b), status)
+	}
+	if b, status := Tile(files(n+1), c, sample.Place(0, 0, 0)); len(b) != 0 || status != api.StBig {
+		t.Error(len(b), status)
+	}
+}
+
+func TestP31_2BrokenDirectory(t *testing.T) {
+	data := texts(5)
+	data[127] ^= 0xff
+	files := []api.File{{Name: "a", Data: data}}
+	if l, status := Source(files, api.Source{Archive: "a"}, 0, sample.Place(0, 0, 0)); len(l) != 0 || status != api.StBroken {
+		t.Error(l, status)
+	}
+	if l, status := Source(files, api.Source{Archive: "a"}, 0, sample.Place(0, 1, 0)); len(l) != 0 || status != api.StOK {
+		t.Error(l, status)
 	}
 }
 

@@ -84,6 +84,7 @@ var changes = []struct {
 	{func(l []api.Composite) { l[0].Sources[0].Join.Drop = true }, false, false},
 	{func(l []api.Composite) { l[0].Sources[0].Join.Only = []string{} }, true, true},
 	{func(l []api.Composite) { l[0].Sources[0].Layers = [][2]string{} }, true, true},
+	{func(l []api.Composite) { l[0].Sources[0].Layers = [][2]string{{"a", "b"}} }, true, false},
 }
 
 func TestP30_1Right(t *testing.T) {

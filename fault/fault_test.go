@@ -5,6 +5,7 @@ import (
 	"fmt"
 	"math/rand"
 	"slices"
+	"strings"
 	"testing"
 
 	"portolan/api"
@@ -183,6 +184,8 @@ func TestP40_3Why(t *testing.T) {
 	b, _ := comp.Tile(files, many("roads"), p)
 	exact, less := many("roads"), many("roads")
 	exact.Limit, less.Limit = len(b), len(b)-1
+	negative := many("roads")
+	negative.Limit = -1
 	tight := sample.Composites()[2]
 	slip := func(stage string, no int, e error) error { return api.Slip{Stage: stage, No: no, Why: e} }
 	for i, c := range []struct {
@@ -204,6 +207,8 @@ func TestP40_3Why(t *testing.T) {
 		{many("roads", "garbage"), p, slip("source", 1, slip("layers", 0, api.ErrForm)), 502},
 		{many("roads", "meta", "garbage"), p, slip("source", 1, slip("meta", 0, api.ErrForm)), 502},
 		{many("roads", "odd"), sample.Place(0, 0, 0), slip("merge", 0, api.ErrRange), 500},
+		{negative, sample.Place(2, 3, 3), nil, 200},
+		{negative, p, slip("limit", len(b), api.ErrLong), 500},
 		{less, p, slip("limit", len(b), api.ErrLong), 500},
 		{tight, sample.Place(0, 0, 0), slip("limit", size(files, tight), api.ErrLong), 500},
 	} {
@@ -211,6 +216,30 @@ func TestP40_3Why(t *testing.T) {
 		if e != c.want || Status(e) != c.status {
 			t.Errorf("%d: %#v %d", i, e, Status(e))
 		}
+	}
+}
+
+// texts returns an archive of a tile with a text of n bytes.
+func texts(n int) []byte {
+	f := api.Feature{Type: api.GeoPoint, Paths: [][]api.Pt{sample.Points(1, 1)}, Attrs: []api.Attr{sample.Text("name", strings.Repeat("a", n))}}
+	return sample.Archive(true, 0, 0, sample.RoadMeta, func(api.Place) []byte {
+		return sample.Tile(api.Layer{Name: "road", Extent: 64, Features: []api.Feature{f}})
+	})
+}
+
+func TestP40_3MaxData(t *testing.T) {
+	const half = api.MaxData / 2
+	c := many("a", "b")
+	c.Sources[1].Layers = [][2]string{{"road", "other"}}
+	c.Limit = 2 * api.MaxData
+	files := func(n int) []api.File { return []api.File{{Name: "a", Data: texts(half)}, {Name: "b", Data: texts(n)}} }
+	b, _ := comp.Tile(files(half-1000), c, api.Place{})
+	n := half - 1000 + api.MaxData - len(b)
+	if e := Why(files(n), c, api.Place{}); e != nil {
+		t.Error(e)
+	}
+	if e := Why(files(n+1), c, api.Place{}); e != (api.Slip{Stage: "limit", No: api.MaxData + 1, Why: api.ErrLong}) {
+		t.Error(e)
 	}
 }
 

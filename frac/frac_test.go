@@ -145,6 +145,10 @@ func TestP23_3Cross(t *testing.T) {
 		{pt(0, most+1), pt(9, 1), 0, false, api.Frac{}, api.ErrRange},
 		{pt(0, 0), pt(minI, 1), 0, false, api.Frac{}, api.ErrRange},
 		{pt(0, 0), pt(0, maxI), 0, false, api.Frac{}, api.ErrRange},
+		{pt(-most-1, 0), pt(5, 0), 0, false, api.Frac{}, api.ErrRange},
+		{pt(5, 0), pt(-most-1, 0), 0, false, api.Frac{}, api.ErrRange},
+		{pt(0, most+1), pt(9, 1), 9, false, api.Frac{}, api.ErrRange},
+		{pt(9, 1), pt(0, most+1), 9, false, api.Frac{}, api.ErrRange},
 		{pt(0, 0), pt(1, 0), most + 1, false, api.Frac{}, api.ErrRange},
 		{pt(0, 0), pt(0, 0), -most - 1, true, api.Frac{}, api.ErrRange},
 	} {

@@ -94,6 +94,15 @@ func TestP6_2Parts(t *testing.T) {
 	}
 }
 
+func TestP6_2Most(t *testing.T) {
+	if out, e := Unwrap(built(0, ""), api.MaxData); string(out) != "abc" || e != api.OK {
+		t.Error(out, e)
+	}
+	if out, e := Unwrap(wrapped(t, ""), 0); len(out) != 0 || e != api.OK {
+		t.Error(out, e)
+	}
+}
+
 func TestP6_2Errors(t *testing.T) {
 	with := func(b []byte, at int, c byte) []byte {
 		b = slices.Clone(b)

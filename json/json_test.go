@@ -68,6 +68,7 @@ func TestP17_1Right(t *testing.T) {
 		{nested(64, num(1)), false},
 		{nested(63, object()), true},
 		{nested(63, object("a", num(1))), false},
+		{nested(62, object("a", num(1))), true},
 		{nested(60000), false},
 	} {
 		if Right(c.x) != c.ok {
@@ -113,6 +114,12 @@ func TestP17_1Get(t *testing.T) {
 	x := object("a", num(1), "b", list(num(2)), "a", num(3))
 	if y, ok := Get(x, "a"); !Same(y, num(1)) || !ok {
 		t.Error(y, ok)
+	}
+	deep := object("a", object("b", num(1)))
+	in, _ := Get(deep, "a")
+	in.Keys[0] = "changed"
+	if deep.List[0].Keys[0] != "b" {
+		t.Error("the argument was shared")
 	}
 	y, ok := Get(x, "b")
 	if !Same(y, list(num(2))) || !ok {
@@ -168,9 +175,10 @@ func TestP17_3Parse(t *testing.T) {
 		" { } ":                              object(),
 		` { "a" : 1 , "b" : [ 2 , true ] } `: object("a", num(1), "b", list(num(2), yes)),
 		`{"a":{"a":1},"b":{"a":2}}`:          object("a", object("a", num(1)), "b", object("a", num(2))),
-		strings.Repeat("[", 64) + strings.Repeat("]", 64):         nested(64),
-		strings.Repeat("[", 63) + "0" + strings.Repeat("]", 63):   nested(63, num(0)),
-		strings.Repeat("[", 63) + " {}" + strings.Repeat("]", 63): nested(63, object()),
+		strings.Repeat("[", 64) + strings.Repeat("]", 64):             nested(64),
+		strings.Repeat("[", 63) + "0" + strings.Repeat("]", 63):       nested(63, num(0)),
+		strings.Repeat("[", 63) + " {}" + strings.Repeat("]", 63):     nested(63, object()),
+		strings.Repeat("[", 62) + `{"a":1}` + strings.Repeat("]", 62): nested(62, object("a", num(1))),
 	} {
 		if x, at, e := Parse(s); !Same(x, want) || at != len(s) || e != api.OK {
 			t.Error(s, x, at, e)

@@ -69,6 +69,7 @@ func TestP28_1Scale(t *testing.T) {
 	}{
 		{api.Pt{X: 3, Y: 5}, zoom(1, 1, 0, 0), 4, api.Pt{X: 2, Y: 10}},
 		{api.Pt{X: 3, Y: -5}, zoom(0, 0, 0, 0), 4, api.Pt{X: 3, Y: -5}},
+		{api.Pt{X: 3, Y: -5}, zoom(0, 0, 1, 0), 4, api.Pt{}},
 		{api.Pt{X: -api.MaxCoord, Y: api.MaxCoord}, zoom(30, 0, 1<<30-1, 0), 1 << 16, api.Pt{X: -1 << 50, Y: 1<<50 - 1<<46 + 1<<16}},
 	} {
 		if p := Scale(c.p, c.z, c.extent); p != c.want {

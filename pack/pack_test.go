@@ -228,8 +228,23 @@ func TestP14_3Errors(t *testing.T) {
 	if _, e := Build(big, spec()); e != api.ErrLong {
 		t.Error(e)
 	}
-	if b, e := Build(append(big, item(9, "x"), item(8, "y")), spec()); len(b) > 0 || e != api.ErrForm {
-		t.Error(e) // the offset of the last entry is greater than MaxFile
+	// the offset of the last entry is greater than MaxFile
+	for _, leaf := range []int{0, 1} {
+		s := spec()
+		s.Leaf = leaf
+		if b, e := Build(append(big, item(9, "x"), item(8, "y")), s); len(b) > 0 || e != api.ErrForm {
+			t.Error(leaf, e)
+		}
+	}
+	whole, _ := Build(big[:4], spec())
+	s := spec()
+	s.Meta = string(make([]byte, api.MaxFile-len(whole)+len(s.Meta)))
+	if b, e := Build(big[:4], s); len(b) != api.MaxFile || e != api.OK {
+		t.Error(len(b), e)
+	}
+	s.Meta += " "
+	if b, e := Build(big[:4], s); len(b) > 0 || e != api.ErrLong {
+		t.Error(len(b), e)
 	}
 }
 

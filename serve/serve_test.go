@@ -52,6 +52,12 @@ func TestP35_1Content(t *testing.T) {
 			t.Error(path, len(body), kind, status)
 		}
 	}
+	nameless := []api.Composite{{Sources: l[0].Sources}}
+	for _, path := range []string{"/x", "", "/.json"} {
+		if _, _, status := Content(files, nameless, path); status != api.StUnknown {
+			t.Error(path, status)
+		}
+	}
 	b, _ := comp.Tile(files, l[0], sample.Place(1, 0, 1))
 	if body, kind, _ := Content(files, l, "/all/1/0/1.mvt"); !bytes.Equal(body, b) || kind != "application/vnd.mapbox-vector-tile" {
 		t.Error(kind)

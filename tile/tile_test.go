@@ -22,6 +22,10 @@ func sample() []api.Layer {
 		}},
 		{Name: "", Extent: 1, Features: []api.Feature{{HasID: true, Type: api.GeoPoint, Paths: at(0, 0)}}},
 		{Name: "é", Extent: api.MaxExtent},
+		{Name: "shapes", Extent: 64, Features: []api.Feature{
+			{Type: api.GeoLine, Paths: [][]api.Pt{{{X: 1, Y: 2}, {X: 3, Y: -4}}, {{}, {}}}, Attrs: []api.Attr{{Key: "one", Val: whole(1)}}},
+			{Type: api.GeoPoly, Paths: [][]api.Pt{{{}, {X: 9}, {X: 9, Y: 9}}}},
+		}},
 	}
 }
 

@@ -10,6 +10,7 @@ import (
 	"portolan/comp"
 	"portolan/json"
 	"portolan/meta"
+	"portolan/pack"
 	"portolan/sample"
 	"portolan/tile"
 )
@@ -132,6 +133,42 @@ func TestP32_2Bounds(t *testing.T) {
 	}
 }
 
+// boxed returns an archive with these corners.
+func boxed(low, high api.Pt) []byte {
+	s := sample.Spec(false, 0, 0, "{}")
+	s.Min, s.Max = low, high
+	b, _ := pack.Build([]api.Item{{Data: []byte("x")}}, s)
+	return b
+}
+
+func TestP32_2BoundsOfSome(t *testing.T) {
+	pt := func(x, y int) api.Pt { return api.Pt{X: x, Y: y} }
+	files := []api.File{
+		{Name: "a", Data: boxed(pt(10, 20), pt(30, 40))},
+		{Name: "b", Data: boxed(pt(5, 25), pt(35, 33))},
+		{Name: "c", Data: boxed(pt(-40, -30), pt(-20, -10))},
+	}
+	for i, c := range []struct {
+		names     string
+		low, high api.Pt
+	}{
+		{"a", pt(10, 20), pt(30, 40)},
+		{"b", pt(5, 25), pt(35, 33)},
+		{"c", pt(-40, -30), pt(-20, -10)},
+		{"ab", pt(5, 20), pt(35, 40)},
+		{"ba", pt(5, 20), pt(35, 40)},
+		{"bca", pt(-40, -30), pt(35, 40)},
+	} {
+		x := sample.One("x", c.names[:1])
+		for _, name := range c.names[1:] {
+			x.Sources = append(x.Sources, api.Source{Archive: string(name)})
+		}
+		if low, high, status := Bounds(files, x); low != c.low || high != c.high || status != api.StOK {
+			t.Error(i, low, high, status)
+		}
+	}
+}
+
 func TestP32_2Credit(t *testing.T) {
 	for want, l := range map[string][]string{
 		"a, b":    {"a", "", "b", "a"},
@@ -156,6 +193,9 @@ func TestP32_3Doc(t *testing.T) {
 		`"attribution":"A, B"}`
 	if s != want || status != api.StOK {
 		t.Error(s, status)
+	}
+	if s, _ := Doc(sample.Files(), sample.Composites()[1]); !strings.Contains(s, `"minzoom":1,"maxzoom":3,`) {
+		t.Error(s)
 	}
 	s, _ = Doc(sample.Files(), sample.One("u", "undescribed"))
 	if strings.Contains(s, "attribution") || !strings.HasSuffix(s, `"vector_layers":[]}`) {

@@ -112,6 +112,28 @@ func TestP22_2MulDiv(t *testing.T) {
 	}
 }
 
+// TestP22_2Overflow tries quotients of which the next one below has no room in a word.
+func TestP22_2Overflow(t *testing.T) {
+	rnd := rand.New(rand.NewSource(24))
+	tried := 0
+	for range 2000 {
+		c := 1 + rnd.Intn(1<<60)
+		a := 2*c + 1 + rnd.Intn(2*c)
+		top := new(big.Int).Lsh(big.NewInt(int64(c)), 64)
+		b := new(big.Int).Div(top.Sub(top, big.NewInt(1)), big.NewInt(int64(a)))
+		rest := new(big.Int).Sub(top, new(big.Int).Mul(b, big.NewInt(int64(a))))
+		if b.IsInt64() && rest.Cmp(big.NewInt(int64(c-1))) < 0 {
+			tried++
+			check(t, -a, int(b.Int64()), c)
+			check(t, a, int(b.Int64()), c)
+			check(t, a, int(b.Int64()), -c)
+		}
+	}
+	if tried < 100 {
+		t.Error(tried)
+	}
+}
+
 func TestP22_3Remainder(t *testing.T) {
 	rnd := rand.New(rand.NewSource(23))
 	n := func() int { return int(rnd.Uint64()) >> uint(rnd.Intn(63)) }

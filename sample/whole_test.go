@@ -1,5 +1,4 @@
-// Package whole tests the promises of the whole, G1 to G5, which no single layer keeps.
-package whole
+package sample_test
 
 import (
 	"bytes"
@@ -23,6 +22,8 @@ import (
 	"portolan/tile"
 	"portolan/wind"
 )
+
+// The promises of the whole, G1 to G5, are tested here, since no single layer keeps them.
 
 func request(method, path string, more ...string) []byte {
 	s := method + " " + path + " HTTP/1.1\r\nHost: x\r\n"
